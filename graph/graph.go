@@ -112,8 +112,8 @@ func values(g api.Graph) iter.Seq[api.Value] {
 	}
 }
 
-// refs goes through the objects that a list of values refers to.
-func refs(list []api.Value) iter.Seq[int] {
+// Refs goes through the objects that a list of values refers to.
+func Refs(list []api.Value) iter.Seq[int] {
 	return func(yield func(int) bool) {
 		for _, v := range list {
 			if v.Ref && !yield(int(v.N)) {
@@ -135,7 +135,7 @@ type found struct {
 func search(g api.Graph) found {
 	f := found{place: map[int]int{}}
 	find := func(list []api.Value, dist int) {
-		for o := range refs(list) {
+		for o := range Refs(list) {
 			if _, ok := f.place[o]; !ok {
 				f.place[o] = len(f.order)
 				f.order = append(f.order, o)

@@ -86,3 +86,19 @@ func TestReachAndDistOfMany(t *testing.T) {
 		}
 	}
 }
+
+func TestRefs(t *testing.T) {
+	list := vals(num(7), ref(2), num(2), ref(0), ref(2))
+	if got := slices.Collect(graph.Refs(list)); !slices.Equal(got, []int{2, 0, 2}) {
+		t.Errorf("Refs: %v", got)
+	}
+	for o := range graph.Refs(list) {
+		if o != 2 {
+			t.Errorf("Refs: %d first", o)
+		}
+		break
+	}
+	for o := range graph.Refs(nil) {
+		t.Errorf("Refs of nothing: %d", o)
+	}
+}
