@@ -54,6 +54,59 @@ func TestCanonOfLimits(t *testing.T) {
 	}
 }
 
+func TestCanonLargeIsCanon(t *testing.T) {
+	for g := range sampleGraphs() {
+		want, _ := graph.Canon(g)
+		if got, e := graph.CanonLarge(g); e != api.OK || !equalGraphs(got, want) {
+			t.Fatalf("CanonLarge of %v: %v %d, want %v", g, got, e, want)
+		}
+	}
+}
+
+func TestCanonLargeBeyondTheLimits(t *testing.T) {
+	const many = 3 * api.MaxObjects
+	back := api.Graph{Objects: objs(obj()), Roots: make([]api.Value, 2*api.MaxRoots)}
+	for o := range int64(many) {
+		back.Objects = append(back.Objects, obj(ref(o), num(1), num(2), num(3), num(o)))
+	}
+	back.Roots[api.MaxRoots] = ref(many)
+	want := api.Graph{Roots: make([]api.Value, 2*api.MaxRoots)}
+	for o := range int64(many) {
+		want.Objects = append(want.Objects, obj(ref(o+1), num(1), num(2), num(3), num(many-1-o)))
+	}
+	want.Objects = append(want.Objects, obj())
+	want.Roots[api.MaxRoots] = ref(0)
+	if got, e := graph.CanonLarge(back); e != api.OK || !equalGraphs(got, want) {
+		t.Errorf("%v %d, want %v", got, e, want)
+	}
+	if got, e := graph.CanonLarge(chain(1000)); e != api.OK || !equalGraphs(got, chain(1000)) {
+		t.Errorf("a long chain: %v %d", got, e)
+	}
+}
+
+func TestCanonLargeOfWrongGraphs(t *testing.T) {
+	const off = api.MaxInt + 1
+	large := chain(api.MaxObjects + 1)
+	large.Roots = vals(ref(0), ref(api.MaxObjects+1))
+	cases := []struct {
+		name string
+		g    api.Graph
+		want api.Errno
+	}{
+		{"a root to no object, large", large, api.ErrArg},
+		{"a root to no object", api.Graph{Roots: vals(ref(0))}, api.ErrArg},
+		{"a field to no object", api.Graph{Objects: objs(obj(ref(-1)))}, api.ErrArg},
+		{"a wrong number ahead of a wrong reference", api.Graph{Objects: objs(obj(ref(1))), Roots: vals(num(off))}, api.ErrArg},
+		{"a wrong number", api.Graph{Roots: vals(num(off))}, api.ErrRange},
+		{"a wrong number in a field", api.Graph{Objects: objs(obj(num(api.MinInt - 1)))}, api.ErrRange},
+	}
+	for _, c := range cases {
+		if got, e := graph.CanonLarge(c.g); e != c.want || !isZeroGraph(got) {
+			t.Errorf("%s: %v %d, want %d alone", c.name, got, e, c.want)
+		}
+	}
+}
+
 // foundInOrder tells whether each object comes up for the first time, in the roots and then in the fields, in the order of the numbers.
 func foundInOrder(g api.Graph) bool {
 	next := int64(0)

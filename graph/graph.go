@@ -13,18 +13,7 @@ func Check(g api.Graph) api.Errno {
 	if isLarge(g) {
 		return api.ErrLarge
 	}
-	// Two rounds: a wrong reference is told ahead of a wrong number, wherever both stand.
-	for v := range values(g) {
-		if v.Ref && !isObject(g, v.N) {
-			return api.ErrArg
-		}
-	}
-	for v := range values(g) {
-		if !v.Ref && !isNumber(v.N) {
-			return api.ErrRange
-		}
-	}
-	return api.OK
+	return checkValues(g)
 }
 
 // Reach tells the objects that can be come to, by their numbers.
@@ -55,7 +44,15 @@ func Dist(g api.Graph) ([]int, api.Errno) {
 
 // Canon tells the objects that can be come to, numbered in the order in which they are found.
 func Canon(g api.Graph) (api.Graph, api.Errno) {
-	if e := Check(g); e != api.OK {
+	if isLarge(g) {
+		return api.Graph{}, api.ErrLarge
+	}
+	return CanonLarge(g)
+}
+
+// CanonLarge tells what Canon does, and tells it of a graph beyond the limits as well: a memory may have come to more objects than a graph that is handed in may have.
+func CanonLarge(g api.Graph) (api.Graph, api.Errno) {
+	if e := checkValues(g); e != api.OK {
 		return api.Graph{}, e
 	}
 	f := search(g)
@@ -84,6 +81,21 @@ func isLarge(g api.Graph) bool {
 		return true
 	}
 	return slices.ContainsFunc(g.Objects, func(o api.Object) bool { return len(o.Fields) > api.MaxFields })
+}
+
+func checkValues(g api.Graph) api.Errno {
+	// Two rounds: a wrong reference is told ahead of a wrong number, wherever both stand.
+	for v := range values(g) {
+		if v.Ref && !isObject(g, v.N) {
+			return api.ErrArg
+		}
+	}
+	for v := range values(g) {
+		if !v.Ref && !isNumber(v.N) {
+			return api.ErrRange
+		}
+	}
+	return api.OK
 }
 
 func isObject(g api.Graph, n int64) bool {
@@ -131,7 +143,7 @@ type found struct {
 }
 
 // search goes breadth first: so the order is Canon's, and each object is found by as few fields as can be.
-// The graph must have passed Check.
+// The graph's references must be to objects.
 func search(g api.Graph) found {
 	f := found{place: map[int]int{}}
 	find := func(list []api.Value, dist int) {
