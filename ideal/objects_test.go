@@ -13,16 +13,16 @@ func TestNumbersOfObjects(t *testing.T) {
 		for o := range list {
 			list[o].Fields = []api.Value{{N: int64(o)}}
 		}
-		there := copied(list)
+		there := NewObjects(list)
 		for o := range int64(given) {
-			if v := there.get(o, 0); v != (api.Value{N: o}) {
+			if v := there.Get(o, 0); v != (api.Value{N: o}) {
 				t.Fatalf("of %d, the object %d has %v", given, o, v)
 			}
 		}
 		for n := range int64(api.MaxScript) {
 			fields := int(n % (api.MaxFields + 1))
-			if o := there.create(fields); o != int64(given)+n || there.size(o) != fields {
-				t.Fatalf("behind %d, the new object %d has the number %d and %d fields", given, n, o, there.size(o))
+			if o, e := there.Create(fields); e != api.OK || o != int64(given)+n || there.Size(o) != fields {
+				t.Fatalf("behind %d, the new object %d has the number %d and %d fields", given, n, o, there.Size(o))
 			}
 		}
 	}
@@ -30,11 +30,11 @@ func TestNumbersOfObjects(t *testing.T) {
 
 // TestNumbersInRegisters: new ones come behind those of the graph, each by the next number, also where what is wrong comes between.
 func TestNumbersInRegisters(t *testing.T) {
-	m := machine{memory: copied(make([]api.Object, 3))}
+	m := NewMachine(NewObjects(make([]api.Object, 3)), nil)
 	for n := range int64(10) {
-		m.do(api.Do{Kind: api.DNew, To: api.MaxRoots})
-		m.do(api.Do{Kind: api.DNew, N: api.MaxFields + 1})
-		m.do(api.Do{Kind: api.DNew, N: n % 3})
+		m.Do(api.Do{Kind: api.DNew, To: api.MaxRoots})
+		m.Do(api.Do{Kind: api.DNew, N: api.MaxFields + 1})
+		m.Do(api.Do{Kind: api.DNew, N: n % 3})
 		if v := m.value(0); v != (api.Value{Ref: true, N: 3 + n}) {
 			t.Fatalf("the new object %d: %v", n, v)
 		}
